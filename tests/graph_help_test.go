@@ -140,6 +140,16 @@ func checkApart(t *testing.T, g impl.Graph) {
 	}
 }
 
+// growAll writes into the room behind each list of the graph, if there is any.
+func growAll(g impl.Graph) {
+	_ = append(g.Roots, rInt(1))
+	_ = append(g.Mourned, rInt(1))
+	_ = append(g.Objs, obj(1, 1, 1, 1))
+	for _, o := range g.Objs {
+		_ = append(o.Slots, rInt(1))
+	}
+}
+
 // dice roll the same at each run.
 type dice struct{ n int64 }
 

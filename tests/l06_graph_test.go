@@ -698,12 +698,7 @@ func TestGraphAnswersShareNothing(t *testing.T) {
 		were = append(were, cloned(a))
 	}
 	for i, a := range answers {
-		_ = append(a.Roots, rInt(1))
-		_ = append(a.Mourned, rInt(1))
-		_ = append(a.Objs, obj(1, 1, 1, 1))
-		for _, o := range a.Objs {
-			_ = append(o.Slots, rInt(1))
-		}
+		growAll(a)
 		checkApart(t, a)
 		w.check(t)
 		for j := i + 1; j < len(answers); j++ {
