@@ -63,7 +63,22 @@ var headsByHand = map[int64]reading{
 	2:               {impl.Head{Slots: 2}, 4, 'o'},
 	3:               {impl.Head{Slots: 3}, 4, 'o'},
 	4:               {impl.Head{Slots: 4}, 6, 'o'},
+	5:               {impl.Head{Slots: 5}, 6, 'o'},
 	6:               {impl.Head{Slots: 6}, 8, 'o'},
+	7:               {impl.Head{Slots: 7}, 8, 'o'},
+	8:               {impl.Head{Slots: 8}, 10, 'o'},
+	9:               {impl.Head{Slots: 9}, 10, 'o'},
+	10:              {impl.Head{Slots: 10}, 12, 'o'},
+	11:              {impl.Head{Slots: 11}, 12, 'o'},
+	12:              {impl.Head{Slots: 12}, 14, 'o'},
+	13:              {impl.Head{Slots: 13}, 14, 'o'},
+	14:              {impl.Head{Slots: 14}, 16, 'o'},
+	15:              {impl.Head{Slots: 15}, 16, 'o'},
+	16:              {impl.Head{Slots: 16}, 18, 'o'},
+	17:              {impl.Head{Slots: 17}, 18, 'o'},
+	18:              {impl.Head{Slots: 18}, 20, 'o'},
+	19:              {impl.Head{Slots: 19}, 20, 'o'},
+	20:              {impl.Head{Slots: 20}, 22, 'o'},
 	65:              {impl.Head{Slots: 1, Format: 1}, 2, 'o'},
 	129:             {impl.Head{Slots: 1, Format: 2}, 2, 'o'},
 	freeHead:        {impl.Head{Format: 6}, 0, 'f'},
@@ -632,18 +647,25 @@ func TestChunksAnsweredShareNothing(t *testing.T) {
 		func() []int64 { l, _ := impl.PutObject(house.row, 110, impl.Head{Slots: 2}, slots.row); return l },
 		func() []int64 { l, _ := impl.PutObject(house.row, 4, impl.Head{Slots: 3}, slots.row); return l },
 	}
+	checkListsApart(t, calls, house, slots)
+}
+
+// checkListsApart writes over each answer and grows it, and asks whether another one, or an argument, shows it.
+func checkListsApart(t *testing.T, calls []func() []int64, handed ...watched) {
+	t.Helper()
 	for i, call := range calls {
-		first := call()
-		want := slices.Clone(first)
+		one := call()
+		want := slices.Clone(one)
 		for _, other := range calls {
 			second := other()
 			overwrite(second)
 			_ = append(second, 1, 2, 3)
 		}
-		if !slices.Equal(first, want) {
-			t.Fatalf("answer %d became %v, was %v", i, first, want)
+		if !slices.Equal(one, want) {
+			t.Fatalf("answer %d became %v, was %v", i, one, want)
 		}
-		house.check(t)
-		slots.check(t)
+		for _, w := range handed {
+			w.check(t)
+		}
 	}
 }
