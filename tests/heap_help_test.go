@@ -37,6 +37,18 @@ func heapOf(half, old, side int64, below, above []int64) impl.Heap {
 	return h
 }
 
+// pairsOf are the places of a heap that is full of chunks of two words.
+func pairsOf(half, old, side int64) []int64 {
+	places := []int64{}
+	for at := int64(0); at < half; at += 2 {
+		places = append(places, half*side+at)
+	}
+	for at := int64(0); at < old; at += 2 {
+		places = append(places, 2*half+at)
+	}
+	return places
+}
+
 func clonedHeap(h impl.Heap) impl.Heap {
 	h.Row = slices.Clone(h.Row)
 	h.Roots = slices.Clone(h.Roots)
@@ -280,6 +292,23 @@ func wantObjects(h impl.Heap) []int64 {
 	return places
 }
 
+// shuffle puts a list into any order.
+func shuffle[T any](d *dice, list []T) {
+	for i := range list {
+		j := d.roll(int64(i) + 1)
+		list[i], list[j] = list[j], list[i]
+	}
+}
+
+// eachOrder: as they rise, as they fall, and in any order.
+func (d *dice) eachOrder(places []int64, look func(places []int64)) {
+	look(places)
+	slices.Reverse(places)
+	look(places)
+	shuffle(d, places)
+	look(places)
+}
+
 // furnish puts chunks into the words, one behind the other, and tells how many words they take: all of them upstairs, where some are free and some Pinned.
 func (d *dice) furnish(words []int64, upstairs bool) int64 {
 	at := int64(0)
@@ -345,10 +374,7 @@ func (d *dice) heap(half, old, mourned int64) impl.Heap {
 	d.furnish(h.Row[2*half:], true)
 	list, _ := piecesOf(h)
 	held := slices.DeleteFunc(slices.Clone(list), piece.isFree)
-	for i := range held {
-		j := d.roll(int64(i) + 1)
-		held[i], held[j] = held[j], held[i]
-	}
+	shuffle(d, held)
 	d.lead(h.Row, held)
 	for _, p := range held {
 		for i := range p.words {

@@ -621,26 +621,9 @@ func TestHeapNotesByHand(t *testing.T) {
 func TestHeapLongRings(t *testing.T) {
 	d := &dice{n: 9}
 	for _, c := range [][2]int64{{8, 8}, {10, 30}, {200, 400}, {100, 8}, {8, 400}} {
-		for side := range int64(2) {
-			places := []int64{}
-			for at := int64(0); at < c[0]; at += 2 {
-				places = append(places, c[0]*side+at)
-			}
-			for at := int64(0); at < c[1]; at += 2 {
-				places = append(places, 2*c[0]+at)
-			}
-			for order := range 3 {
-				if order == 1 {
-					slices.Reverse(places)
-				}
-				for i := range places {
-					if j := d.roll(int64(i) + 1); order == 2 {
-						places[i], places[j] = places[j], places[i]
-					}
-				}
-				checkRings(t, c[0], c[1], side, places)
-			}
-		}
+		eachSide(func(side int64) {
+			d.eachOrder(pairsOf(c[0], c[1], side), func(places []int64) { checkRings(t, c[0], c[1], side, places) })
+		})
 	}
 }
 
