@@ -51,25 +51,30 @@ func bareGraph(h impl.Heap) impl.Graph {
 	return g
 }
 
-// wantShown is the bare graph, where those that are come to have their numbers as Ids and all others are gone.
-func wantShown(h impl.Heap) impl.Graph {
-	bare := bareGraph(h)
-	ids := cameTo(bare)
-	if len(ids) > 200 {
-		return impl.Graph{}
-	}
+// byCanon is the graph, where those that are come to have their numbers as Ids and all others are gone.
+func byCanon(g impl.Graph) impl.Graph {
+	ids := cameTo(g)
 	became := map[int64]int64{}
 	for i, id := range ids {
 		became[id] = int64(i + 1)
 	}
-	g := impl.Graph{Roots: bare.Roots, Mourned: bare.Mourned, Next: int64(len(ids) + 1), Seed: h.Seed}
-	rename(g.Roots, became)
-	rename(g.Mourned, became)
+	made := cloned(g)
+	made.Objs, made.Next = nil, int64(len(ids)+1)
+	rename(made.Roots, became)
+	rename(made.Mourned, became)
 	for _, id := range ids {
-		o, _ := findObj(bare, id)
-		o.Id = became[id]
+		o, _ := findObj(g, id)
+		o.Id, o.Slots = became[id], slices.Clone(o.Slots)
 		rename(o.Slots, became)
-		g.Objs = append(g.Objs, o)
+		made.Objs = append(made.Objs, o)
+	}
+	return made
+}
+
+func wantShown(h impl.Heap) impl.Graph {
+	g := byCanon(bareGraph(h))
+	if len(g.Objs) > 200 {
+		return impl.Graph{}
 	}
 	return g
 }
