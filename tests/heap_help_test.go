@@ -1,6 +1,7 @@
 package tests
 
 import (
+	"math"
 	"slices"
 	"testing"
 
@@ -394,4 +395,40 @@ func (d *dice) heap(half, old, mourned int64) impl.Heap {
 	list, _ = piecesOf(h)
 	h.Seen = wantSeen(h, list)
 	return h
+}
+
+// eachSpoilt goes through what is furnished with one thing spoilt, and with each Seen that is wrong, on this side.
+func eachSpoilt(t *testing.T, side int64, look func(h impl.Heap)) {
+	t.Helper()
+	for _, spoilt := range spoilings(side) {
+		h := furnished(side)
+		spoilt(&h)
+		checkBoth(t, "spoilt", h, false)
+		look(h)
+	}
+	for _, seen := range [][]int64{nil, {24}, {32}, {32, 24}, {24, 24, 32}, {24, 32, 32}, {24, 32, 40}, {24, 28, 32}, {12 * side, 24, 32}, {-1}, {math.MaxInt64}} {
+		h := furnished(side)
+		h.Seen = seen
+		checkBoth(t, "a wrong Seen", h, false)
+		look(h)
+	}
+}
+
+// rightWords are those that lead to each chunk of what is furnished, Nil, and a number.
+func rightWords(side int64) []int64 {
+	words := []int64{2, num(12 * side)}
+	for _, at := range rightPlaces(side) {
+		words = append(words, to(at))
+	}
+	return words
+}
+
+// wordPlaces are where such a word stands: a Root, one of Mourned, each Slot and each note.
+func wordPlaces(side int64) []func(h *impl.Heap) *int64 {
+	s := 12 * side
+	places := []func(h *impl.Heap) *int64{func(h *impl.Heap) *int64 { return &h.Roots[3] }, func(h *impl.Heap) *int64 { return &h.Mourned[1] }}
+	for _, at := range []int64{s + 1, s + 2, s + 5, s + 7, 25, 26, 33, 39, 41, 42, 43, 45} {
+		places = append(places, func(h *impl.Heap) *int64 { return &h.Row[at] })
+	}
+	return places
 }

@@ -1,7 +1,6 @@
 package tests
 
 import (
-	"math"
 	"slices"
 	"testing"
 
@@ -630,18 +629,7 @@ func TestMarkingNotesInEveryWay(t *testing.T) {
 
 func TestMarkingOfWrongHeaps(t *testing.T) {
 	eachSide(func(side int64) {
-		for _, spoilt := range spoilings(side) {
-			h := furnished(side)
-			spoilt(&h)
-			checkBoth(t, "spoilt", h, false)
-			checkNoMarking(t, h)
-		}
-		for _, seen := range [][]int64{nil, {24}, {32}, {32, 24}, {24, 24, 32}, {24, 32, 32}, {24, 32, 40}, {24, 28, 32}, {12 * side, 24, 32}, {-1}, {math.MaxInt64}} {
-			h := furnished(side)
-			h.Seen = seen
-			checkBoth(t, "a wrong Seen", h, false)
-			checkNoMarking(t, h)
-		}
+		eachSpoilt(t, side, func(h impl.Heap) { checkNoMarking(t, h) })
 	})
 	checkNoMarking(t, impl.Heap{})
 }

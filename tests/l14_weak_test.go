@@ -2,7 +2,6 @@ package tests
 
 import (
 	"cmp"
-	"math"
 	"slices"
 	"testing"
 
@@ -717,17 +716,9 @@ func TestGrievingOfManyGraphs(t *testing.T) {
 func TestGrievingWithOneWordChanged(t *testing.T) {
 	eachSide(func(side int64) {
 		s := 12 * side
-		words := []int64{2, num(s)}
-		for _, at := range rightPlaces(side) {
-			words = append(words, to(at))
-		}
-		places := []func(h *impl.Heap) *int64{func(h *impl.Heap) *int64 { return &h.Roots[3] }, func(h *impl.Heap) *int64 { return &h.Mourned[1] }}
-		for _, at := range []int64{s + 1, s + 2, s + 5, s + 7, 25, 26, 33, 39, 41, 42, 43, 45} {
-			places = append(places, func(h *impl.Heap) *int64 { return &h.Row[at] })
-		}
 		right, changed := 0, 0
-		for _, place := range places {
-			for _, word := range words {
+		for _, place := range wordPlaces(side) {
+			for _, word := range rightWords(side) {
 				for _, root := range []int64{to(s), to(24), to(40), to(s + 6)} {
 					for kind := range int64(4) {
 						h := furnished(side)
@@ -788,18 +779,7 @@ func TestGrievingNotesInEveryWay(t *testing.T) {
 
 func TestGrievingOfWrongHeaps(t *testing.T) {
 	eachSide(func(side int64) {
-		for _, spoilt := range spoilings(side) {
-			h := furnished(side)
-			spoilt(&h)
-			checkBoth(t, "spoilt", h, false)
-			checkNoGrieving(t, h)
-		}
-		for _, seen := range [][]int64{nil, {24}, {32}, {32, 24}, {24, 24, 32}, {24, 32, 32}, {24, 32, 40}, {24, 28, 32}, {12 * side, 24, 32}, {-1}, {math.MaxInt64}} {
-			h := furnished(side)
-			h.Seen = seen
-			checkBoth(t, "a wrong Seen", h, false)
-			checkNoGrieving(t, h)
-		}
+		eachSpoilt(t, side, func(h impl.Heap) { checkNoGrieving(t, h) })
 	})
 	checkNoGrieving(t, impl.Heap{})
 }

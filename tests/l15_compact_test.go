@@ -627,18 +627,9 @@ func coalescedUpstairs(h impl.Heap) impl.Heap {
 // Each Root, each of Mourned, each Slot and each note of what is furnished, with every word that it may be, where notes are there still or not.
 func TestPushingWithOneWordChanged(t *testing.T) {
 	eachSide(func(side int64) {
-		s := 12 * side
-		words := []int64{2, num(s)}
-		for _, at := range rightPlaces(side) {
-			words = append(words, to(at))
-		}
-		places := []func(h *impl.Heap) *int64{func(h *impl.Heap) *int64 { return &h.Roots[3] }, func(h *impl.Heap) *int64 { return &h.Mourned[1] }}
-		for _, at := range []int64{s + 1, s + 2, s + 5, s + 7, 25, 26, 33, 39, 41, 42, 43, 45} {
-			places = append(places, func(h *impl.Heap) *int64 { return &h.Row[at] })
-		}
 		right, swept, pushed := 0, 0, 0
-		for _, place := range places {
-			for _, word := range words {
+		for _, place := range wordPlaces(side) {
+			for _, word := range rightWords(side) {
 				for kind := range 4 {
 					h := furnished(side)
 					h.Roots, h.Mourned = six(2, to(40)), slices.Repeat([]int64{to(36)}, 3)
@@ -674,18 +665,7 @@ func TestPushingWithOneWordChanged(t *testing.T) {
 
 func TestPushingOfWrongHeaps(t *testing.T) {
 	eachSide(func(side int64) {
-		for _, spoilt := range spoilings(side) {
-			h := furnished(side)
-			spoilt(&h)
-			checkBoth(t, "spoilt", h, false)
-			checkNoPushing(t, h)
-		}
-		for _, seen := range [][]int64{nil, {24}, {32}, {32, 24}, {24, 24, 32}, {24, 32, 32}, {24, 32, 40}, {24, 28, 32}, {12 * side, 24, 32}, {-1}, {math.MaxInt64}} {
-			h := furnished(side)
-			h.Seen = seen
-			checkBoth(t, "a wrong Seen", h, false)
-			checkNoPushing(t, h)
-		}
+		eachSpoilt(t, side, func(h impl.Heap) { checkNoPushing(t, h) })
 		// Straight, and with something to do, but for one thing that is wrong.
 		for _, spoilt := range []func(h *impl.Heap){
 			func(h *impl.Heap) { h.Seen = nil },
