@@ -52,14 +52,19 @@ func wantPlaceFor(h impl.Heap, size int64, pinned bool) int64 {
 	return wantPlace(h, size)
 }
 
+// takeByHand makes room for as many words there, in the room or of a free chunk upstairs.
+func takeByHand(h *impl.Heap, at, size int64) {
+	if at < 2*h.Half {
+		h.Top += size
+	} else if left := h.Row[at+1] - size; left > 0 {
+		copy(h.Row[at+size:], []int64{freeHead, left})
+	}
+}
+
 // wantWith has the new one at this place, where there is room for it.
 func wantWith(h impl.Heap, n newOne, at int64) impl.Heap {
 	made := clonedHeap(h)
-	if at < 2*h.Half {
-		made.Top += n.size()
-	} else if left := h.Row[at+1] - n.size(); left > 0 {
-		copy(made.Row[at+n.size():], []int64{freeHead, left})
-	}
+	takeByHand(&made, at, n.size())
 	made.Row = wantPut(made.Row, at, n.head(h.Seed), twos(int(n.slots)))
 	made.Roots[n.root] = to(at)
 	made.Seed = n.head(h.Seed).Hash

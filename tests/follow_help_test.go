@@ -100,13 +100,18 @@ func wantStraightened(h impl.Heap) impl.Heap {
 	return made
 }
 
-// wantRoot is the head of the object to which the Root leads.
-func wantRoot(h impl.Heap, root int64) (impl.Head, bool) {
+// rootByHand is the object to which the Root leads.
+func rootByHand(h impl.Heap, root int64) (piece, bool) {
 	if root < 0 || root > 5 {
-		return impl.Head{}, false
+		return piece{}, false
 	}
 	list, _ := piecesOf(h)
-	p, is := pieceLedTo(list, wantFollow(list, h.Roots[root]))
+	return pieceLedTo(list, wantFollow(list, h.Roots[root]))
+}
+
+// wantRoot is its head.
+func wantRoot(h impl.Heap, root int64) (impl.Head, bool) {
+	p, is := rootByHand(h, root)
 	return p.head, is
 }
 

@@ -150,6 +150,25 @@ func growAll(g impl.Graph) {
 	}
 }
 
+// checkAnswersApart grows each answer and writes into it, and asks whether another one, or the graph that was handed in, shows it.
+func checkAnswersApart(t *testing.T, w watchedGraph, answers []impl.Graph) {
+	t.Helper()
+	were := []impl.Graph{}
+	for _, a := range answers {
+		were = append(were, cloned(a))
+	}
+	for i, a := range answers {
+		growAll(a)
+		checkApart(t, a)
+		w.check(t)
+		for j := i + 1; j < len(answers); j++ {
+			if !sameGraph(answers[j], were[j]) {
+				t.Fatalf("answer %d, written into, changes answer %d: %v", i, j, answers[j])
+			}
+		}
+	}
+}
+
 // dice roll the same at each run.
 type dice struct{ n int64 }
 

@@ -414,6 +414,44 @@ func eachSpoilt(t *testing.T, side int64, look func(h impl.Heap)) {
 	}
 }
 
+// eachSpoiltWithRoom goes through a heap with much room, whose Roots 0 and 1 lead to two objects, with one thing that is wrong; the same that is right is beside it.
+func eachSpoiltWithRoom(t *testing.T, side int64, look func(right, wrong impl.Heap)) {
+	t.Helper()
+	for _, spoilt := range []func(h *impl.Heap){
+		func(h *impl.Heap) { h.Seen = nil },
+		func(h *impl.Heap) { h.Seen = append(h.Seen, 52) },
+		func(h *impl.Heap) { h.Roots[0] = to(48) },
+		func(h *impl.Heap) { h.Roots[5] = 3 },
+		func(h *impl.Heap) { h.Roots = h.Roots[:5] },
+		func(h *impl.Heap) { h.Roots = append(h.Roots, 2) },
+		func(h *impl.Heap) { h.Mourned = []int64{2} },
+		func(h *impl.Heap) { h.Mourned = slices.Repeat([]int64{to(50)}, 41) },
+		func(h *impl.Heap) { h.Row[51] = to(51) },
+		func(h *impl.Heap) { h.Row[49] = 3 },
+		func(h *impl.Heap) { h.Row[55] = 53 },
+		func(h *impl.Heap) { h.Row[50] += marked },
+		func(h *impl.Heap) { h.Row[24*side] += pinned },
+		func(h *impl.Heap) { h.Row[24*side+23] = 1 },
+		func(h *impl.Heap) { h.Row[24-24*side] = 1 },
+		func(h *impl.Heap) { h.Row = append(h.Row, free(2)...) },
+		func(h *impl.Heap) { h.Old += 2 },
+		func(h *impl.Heap) { h.Top = 3 },
+		func(h *impl.Heap) { h.Top = -2 },
+		func(h *impl.Heap) { h.Top = 26 },
+		func(h *impl.Heap) { h.Side = 2 },
+		func(h *impl.Heap) { h.Side = -1 },
+		func(h *impl.Heap) { h.Seed = 65536 },
+		func(h *impl.Heap) { h.Seed = -1 },
+	} {
+		right := layout{below: one(1), above: joined(free(2), one(2, to(24*side)), one(3)), roots: []int64{to(50), to(24 * side)}}.heap(side)
+		wrong := clonedHeap(right)
+		spoilt(&wrong)
+		checkBoth(t, "right", right, true)
+		checkBoth(t, "spoilt", wrong, false)
+		look(right, wrong)
+	}
+}
+
 // rightWords are those that lead to each chunk of what is furnished, Nil, and a number.
 func rightWords(side int64) []int64 {
 	words := []int64{2, num(12 * side)}

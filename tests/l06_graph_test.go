@@ -693,20 +693,7 @@ func TestGraphAnswersShareNothing(t *testing.T) {
 		first(impl.GStored(g, 1, 1, 0)), first(impl.GStored(g, 0, 1, 0)), first(impl.GPut(g, 0, rNil)), first(impl.GPut(g, 0, rObj(1))),
 		first(impl.GCopied(g, 0, 1)), first(impl.GCopied(g, 0, 6)),
 	}
-	were := []impl.Graph{}
-	for _, a := range answers {
-		were = append(were, cloned(a))
-	}
-	for i, a := range answers {
-		growAll(a)
-		checkApart(t, a)
-		w.check(t)
-		for j := i + 1; j < len(answers); j++ {
-			if !sameGraph(answers[j], were[j]) {
-				t.Fatalf("answer %d, written into, changes answer %d: %v", i, j, answers[j])
-			}
-		}
-	}
+	checkAnswersApart(t, w, answers)
 	again := first(impl.GCopied(g, 0, 1))
 	was := cloned(again)
 	checkApart(t, g)

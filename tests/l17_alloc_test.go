@@ -756,40 +756,10 @@ func TestAllocatedAsInTheGraph(t *testing.T) {
 func TestAllocatedOfWrongHeaps(t *testing.T) {
 	eachSide(func(side int64) {
 		eachSpoilt(t, side, func(h impl.Heap) { checkNoAllocating(t, h) })
-		// With much room, but for one thing that is wrong.
-		for _, spoilt := range []func(h *impl.Heap){
-			func(h *impl.Heap) { h.Seen = nil },
-			func(h *impl.Heap) { h.Seen = append(h.Seen, 52) },
-			func(h *impl.Heap) { h.Roots[0] = to(48) },
-			func(h *impl.Heap) { h.Roots[5] = 3 },
-			func(h *impl.Heap) { h.Roots = h.Roots[:5] },
-			func(h *impl.Heap) { h.Roots = append(h.Roots, 2) },
-			func(h *impl.Heap) { h.Mourned = []int64{2} },
-			func(h *impl.Heap) { h.Mourned = slices.Repeat([]int64{to(50)}, 41) },
-			func(h *impl.Heap) { h.Row[51] = to(51) },
-			func(h *impl.Heap) { h.Row[49] = 3 },
-			func(h *impl.Heap) { h.Row[55] = 53 },
-			func(h *impl.Heap) { h.Row[50] += marked },
-			func(h *impl.Heap) { h.Row[24*side] += pinned },
-			func(h *impl.Heap) { h.Row[24*side+23] = 1 },
-			func(h *impl.Heap) { h.Row[24-24*side] = 1 },
-			func(h *impl.Heap) { h.Row = append(h.Row, free(2)...) },
-			func(h *impl.Heap) { h.Old += 2 },
-			func(h *impl.Heap) { h.Top = 3 },
-			func(h *impl.Heap) { h.Top = -2 },
-			func(h *impl.Heap) { h.Top = 26 },
-			func(h *impl.Heap) { h.Side = 2 },
-			func(h *impl.Heap) { h.Side = -1 },
-			func(h *impl.Heap) { h.Seed = 65536 },
-			func(h *impl.Heap) { h.Seed = -1 },
-		} {
-			h := layout{below: one(1), above: joined(free(2), one(2, to(24*side)), one(3)), roots: []int64{to(50)}}.heap(side)
-			checkBoth(t, "right", h, true)
-			checkAllocating(t, h, newOne{slots: 3})
-			spoilt(&h)
-			checkBoth(t, "spoilt", h, false)
-			checkNoAllocating(t, h)
-		}
+		eachSpoiltWithRoom(t, side, func(right, wrong impl.Heap) {
+			checkAllocating(t, right, newOne{slots: 3})
+			checkNoAllocating(t, wrong)
+		})
 	})
 	checkNoAllocating(t, impl.Heap{})
 	checkNoAllocating(t, impl.Heap{Half: 8, Old: 8, Row: free(8), Roots: six()})

@@ -73,6 +73,11 @@ func wantPlace(h impl.Heap, size int64) int64 {
 	return best.at
 }
 
+// leftNote is the note that an object with so many Slots leaves, and that leads there.
+func leftNote(slots, place int64) []int64 {
+	return zeros(int(slots/2*2+2), noteHead+slots, to(place))
+}
+
 func wantTenured(h impl.Heap, at int64) (impl.Heap, bool) {
 	made := clonedHeap(h)
 	p, is := objectByHand(h, at)
@@ -83,11 +88,9 @@ func wantTenured(h impl.Heap, at int64) (impl.Heap, bool) {
 	if place < 0 {
 		return made, false
 	}
-	if left := h.Row[place+1] - p.size; left > 0 {
-		copy(made.Row[place+p.size:], []int64{freeHead, left})
-	}
+	takeByHand(&made, place, p.size)
 	copy(made.Row[place:], h.Row[at:at+p.size])
-	copy(made.Row[at:], zeros(int(p.size), noteHead+p.head.Slots, to(place)))
+	copy(made.Row[at:], leftNote(p.head.Slots, place))
 	rightSeen(&made)
 	return made, true
 }
