@@ -310,3 +310,18 @@ func (d *dice) detours(h *impl.Heap) {
 	}
 	rightSeen(h)
 }
+
+// mixedHeap is by turns one with and without many notes, with and without Pinned ones, and with words that lead over notes or straight on.
+func (d *dice) mixedHeap(turn int) impl.Heap {
+	h := d.heap(8+2*d.roll(14), 8+2*d.roll(24), d.roll(3))
+	if turn%5 == 1 {
+		d.noted(&h)
+	}
+	if turn%3 > 0 {
+		d.detours(&h)
+	}
+	if turn%4 > 1 {
+		unnailed(&h)
+	}
+	return h
+}

@@ -497,16 +497,7 @@ func TestBecomingOfManyHeaps(t *testing.T) {
 	d := &dice{n: 1818}
 	told, wrong := map[becameCodes]int{}, 0
 	for i := range 700 {
-		h := d.heap(8+2*d.roll(14), 8+2*d.roll(24), d.roll(3))
-		if i%5 == 1 {
-			d.noted(&h)
-		}
-		if i%3 > 0 {
-			d.detours(&h)
-		}
-		if i%4 > 1 {
-			unnailed(&h)
-		}
+		h := d.mixedHeap(i)
 		for range 8 {
 			told[checkBecoming(t, h, d.roll(6), d.roll(6))]++
 		}
