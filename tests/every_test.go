@@ -51,13 +51,13 @@ func eachFunction(t *testing.T, ask func(t *testing.T, a *asked, d *dice)) {
 	}
 }
 
-// Each argument at each of its edges, those beside it by dice.
+// Each argument at each of its edges, those beside it by dice: more often where there are few edges.
 func TestEveryFunctionAtItsEdges(t *testing.T) {
 	every := everyArgument(t)
 	eachFunction(t, func(t *testing.T, a *asked, d *dice) {
 		for i, edged := range a.takes() {
 			for _, edge := range every[edged].edges {
-				for range 2 {
+				for range 1 + 300/len(every[edged].edges) {
 					args := []reflect.Value{}
 					for j, kind := range a.takes() {
 						if i == j {
